@@ -21,10 +21,6 @@ var goodNames = []string{"a", "z", "0", "9", "-", ".", "_", "a.b", "q-1_x", stri
 
 var noExchangeKinds = []int{math.MinInt, -256, -2, -1, 3, 4, 256, 258, 4294967296, 4294967298, math.MaxInt}
 
-func sameRoutes(a impl.Routes, b impl.Routes) bool {
-	return slices.Equal(a.Exchanges, b.Exchanges) && slices.Equal(a.Bindings, b.Bindings)
-}
-
 // keptRoutes is r in memory of its own, to hold it against what comes later.
 func keptRoutes(r impl.Routes) impl.Routes {
 	return impl.Routes{Exchanges: slices.Clone(r.Exchanges), Bindings: slices.Clone(r.Bindings)}
@@ -106,36 +102,25 @@ func wrongRoutes() map[string]impl.Routes {
 
 func wantRoutes(t *testing.T, what string, got impl.Routes, want impl.Routes) {
 	t.Helper()
-	if !sameRoutes(got, want) {
-		t.Errorf("%s = %#v; want %#v", what, got, want)
-	}
+	wantSame(t, what, got, want)
 }
 
 // wantOk wants RoutesOk of r to be so.
 func wantOk(t *testing.T, why string, r impl.Routes, want bool) {
 	t.Helper()
-	if got := impl.RoutesOk(r); got != want {
-		t.Errorf("%s: RoutesOk of %#v = %v; want %v", why, r, got, want)
-	}
+	wantRight(t, why, impl.RoutesOk, r, want)
 }
 
 // wantTaken wants what a call answered to be these routes, which are right, and true.
 func wantTaken(t *testing.T, what string, got impl.Routes, ok bool, want impl.Routes) {
 	t.Helper()
-	if !ok {
-		t.Errorf("%s is refused", what)
-	}
-	wantRoutes(t, what, got, want)
-	wantOk(t, what, got, true)
+	wantDone(t, what, impl.RoutesOk, got, ok, want)
 }
 
 // wantKept wants what a call answered to be the routes as they were, and false.
 func wantKept(t *testing.T, what string, got impl.Routes, ok bool, was impl.Routes) {
 	t.Helper()
-	if ok {
-		t.Errorf("%s is taken", what)
-	}
-	wantRoutes(t, what, got, was)
+	wantLeft(t, what, got, ok, was)
 }
 
 func TestRouteConstants(t *testing.T) {
