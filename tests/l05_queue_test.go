@@ -746,119 +746,65 @@ func TestQueueByPromise(t *testing.T) {
 	}
 }
 
-// queueCalls are calls that answer a queue, and the other texts that they answer.
-var queueCalls = map[string]func(q impl.Queue) (impl.Queue, []string){
-	"Push": func(q impl.Queue) (impl.Queue, []string) { q, _ = impl.Push(q, "x", "k", "b"); return q, nil },
-	"Push of no key": func(q impl.Queue) (impl.Queue, []string) {
-		q, _ = impl.Push(q, "x", "k k", "b")
-		return q, nil
-	},
-	"Pop": func(q impl.Queue) (impl.Queue, []string) {
-		q, m, _ := impl.Pop(q, 2, 30)
-		return q, []string{m.Exchange, m.Key, m.Body}
-	},
-	"Pop of a first owner": func(q impl.Queue) (impl.Queue, []string) {
-		q, m, _ := impl.Pop(q, 1, 30)
-		return q, []string{m.Exchange, m.Key, m.Body}
-	},
-	"Pop of no tag":     func(q impl.Queue) (impl.Queue, []string) { q, _, _ = impl.Pop(q, 2, 20); return q, nil },
-	"Pop of no owner":   func(q impl.Queue) (impl.Queue, []string) { q, _, _ = impl.Pop(q, -2, 20); return q, nil },
-	"Drop":              func(q impl.Queue) (impl.Queue, []string) { q, _ = impl.Drop(q, 2, 5, false); return q, nil },
-	"Drop of all":       func(q impl.Queue) (impl.Queue, []string) { q, _ = impl.Drop(q, 2, 9, true); return q, nil },
-	"Drop of nothing":   func(q impl.Queue) (impl.Queue, []string) { q, _ = impl.Drop(q, 1, 9, true); return q, nil },
-	"Return":            func(q impl.Queue) (impl.Queue, []string) { q, _ = impl.Return(q, 2, 5, false); return q, nil },
-	"Return of all":     func(q impl.Queue) (impl.Queue, []string) { q, _ = impl.Return(q, 2, 20, true); return q, nil },
-	"Return of nothing": func(q impl.Queue) (impl.Queue, []string) { q, _ = impl.Return(q, 1, 20, true); return q, nil },
-	"QueueOk":           func(q impl.Queue) (impl.Queue, []string) { impl.QueueOk(q); return impl.Queue{}, nil },
-	"Depth":             func(q impl.Queue) (impl.Queue, []string) { impl.Depth(q); return impl.Queue{}, nil },
+// queueAsked is a queue and what it is asked with.
+type queueAsked struct {
+	Queue               impl.Queue
+	Exchange, Key, Body string
 }
 
-// queueTexts are the texts of a queue.
-func queueTexts(q impl.Queue) []string {
-	out := []string{q.Name}
-	for _, m := range q.Ready {
-		out = append(out, m.Exchange, m.Key, m.Body)
+// pushed, popped, dropped and returned are calls with what is asked.
+func pushed(x queueAsked) []any {
+	q, ok := impl.Push(x.Queue, x.Exchange, x.Key, x.Body)
+	return []any{q, ok}
+}
+
+func popped(owner int, tag int) func(x queueAsked) []any {
+	return func(x queueAsked) []any {
+		q, m, ok := impl.Pop(x.Queue, owner, tag)
+		return []any{q, m, ok}
 	}
-	for _, h := range q.Held {
-		out = append(out, h.Message.Exchange, h.Message.Key, h.Message.Body)
+}
+
+func dropped(owner int, tag int, all bool) func(x queueAsked) []any {
+	return func(x queueAsked) []any {
+		q, n := impl.Drop(x.Queue, owner, tag, all)
+		return []any{q, n}
 	}
-	return out
 }
 
-// calledQueues are a right one and the wrong ones, each to be called with.
-func calledQueues() map[string]impl.Queue {
-	out := wrongQueues()
-	out["right"] = someQueue()
-	out["ready alone"] = impl.Queue{Name: "q", Next: 50, Ready: manyReady(1, 20)}
-	out["held alone"] = impl.Queue{Name: "q", Next: 50, Held: someQueue().Held}
-	out["empty"] = impl.Queue{Name: "q", Next: 50}
-	return out
+func returned(owner int, tag int, all bool) func(x queueAsked) []any {
+	return func(x queueAsked) []any {
+		q, n := impl.Return(x.Queue, owner, tag, all)
+		return []any{q, n}
+	}
 }
 
-func TestQueueArgumentsAreUnwritten(t *testing.T) {
-	for why, was := range calledQueues() {
+var queueCalls = map[string]func(x queueAsked) []any{
+	"Push":                 pushed,
+	"Pop":                  popped(2, 30),
+	"Pop of a first owner": popped(1, 30),
+	"Pop of no tag":        popped(2, 20),
+	"Pop of no owner":      popped(-2, 20),
+	"Drop":                 dropped(2, 5, false),
+	"Drop of all":          dropped(2, 9, true),
+	"Drop of nothing":      dropped(1, 9, true),
+	"Return":               returned(2, 5, false),
+	"Return of all":        returned(2, 20, true),
+	"Return of nothing":    returned(1, 20, true),
+	"QueueOk":              func(x queueAsked) []any { return []any{impl.QueueOk(x.Queue)} },
+	"Depth":                func(x queueAsked) []any { r, h := impl.Depth(x.Queue); return []any{r, h} },
+}
+
+func TestQueueMemory(t *testing.T) {
+	list := wrongQueues()
+	list["right"] = someQueue()
+	list["ready alone"] = impl.Queue{Name: "q", Next: 50, Ready: manyReady(1, 20)}
+	list["held alone"] = impl.Queue{Name: "q", Next: 50, Held: someQueue().Held}
+	list["empty"] = impl.Queue{Name: "q", Next: 50}
+	for why, q := range list {
 		for name, call := range queueCalls {
-			// The lists have room behind them, in which something stands.
-			q := keptQueue(was)
-			ready := append(slices.Clone(q.Ready), messageOf(90), messageOf(91), messageOf(92), messageOf(93), messageOf(94), messageOf(95))
-			held := append(slices.Clone(q.Held), heldOf(90, 1, 90), heldOf(91, 1, 91), heldOf(92, 1, 92))
-			q.Ready, q.Held = ready[:len(q.Ready)], held[:len(q.Held)]
-			keptReady, keptHeld := slices.Clone(ready), slices.Clone(held)
-			call(q)
-			if !slices.Equal(ready, keptReady) || !slices.Equal(held, keptHeld) {
-				t.Errorf("%s: %s writes into its argument", why, name)
-			}
+			wantApart(t, why+": "+name, queueAsked{Queue: q, Exchange: "x", Key: "k", Body: "b"}, call)
+			wantApart(t, why+": "+name+", no key", queueAsked{Queue: q, Exchange: "x", Key: "k k", Body: "b"}, call)
 		}
-	}
-}
-
-func TestQueueAnswersAreNewLists(t *testing.T) {
-	for why, was := range calledQueues() {
-		for name, call := range queueCalls {
-			q := keptQueue(was)
-			got, _ := call(q)
-			kept := keptQueue(got)
-			// What is changed in the argument is not seen in the answer ..
-			for i := range q.Ready {
-				q.Ready[i] = messageOf(-90 - i)
-			}
-			for i := range q.Held {
-				q.Held[i] = heldOf(-90-i, -7, -7)
-			}
-			wantSame(t, why+": "+name+" behind a change of its argument", got, kept)
-			// .. and what is put behind one list of it in no other one.
-			for i := range got.Ready {
-				got.Ready[i] = messageOf(-190 - i)
-			}
-			got.Ready = append(got.Ready, messageOf(-300), messageOf(-301))
-			if !slices.Equal(got.Held, kept.Held) {
-				t.Errorf("%s: %s: its lists share memory", why, name)
-			}
-		}
-	}
-}
-
-func TestQueueAnswersAreNewTexts(t *testing.T) {
-	for why, q := range calledQueues() {
-		for name, call := range queueCalls {
-			if len(q.Ready)+len(q.Held) > 100 {
-				continue
-			}
-			got, more := call(q)
-			texts := append(queueTexts(got), more...)
-			for _, s := range queueTexts(q) {
-				for _, text := range texts {
-					if shares(text, s) {
-						t.Errorf("%s: %s shares the memory of %q", why, name, s)
-					}
-				}
-			}
-		}
-	}
-	exchange, key, body := strings.Repeat("e", 20), strings.Repeat("k", 20), strings.Repeat("b", 20)
-	got, _ := impl.Push(someQueue(), exchange, key, body)
-	last := got.Ready[len(got.Ready)-1]
-	if shares(last.Exchange, exchange) || shares(last.Key, key) || shares(last.Body, body) {
-		t.Error("Push shares memory with its texts")
 	}
 }
