@@ -701,11 +701,7 @@ func (p *plainQueue) give(owner int, tag int, all bool, to int) int {
 func TestQueueByPromise(t *testing.T) {
 	plain := &plainQueue{bodies: []string{""}, state: []int{plainGone}, tags: []int{0}, again: []bool{false}, last: map[int]int{}}
 	q := plain.queue()
-	dice := uint32(1)
-	roll := func(n int) int {
-		dice = dice*1664525 + 1013904223
-		return int(dice>>16) % n
-	}
+	roll := diceOf(1)
 	for step := range 4000 {
 		owner := roll(3)
 		all := roll(3) == 0

@@ -649,11 +649,7 @@ func TestStreamByPromise(t *testing.T) {
 	marks := map[string]int{}
 	s := impl.Stream{Name: "s"}
 	low, now := 0, 0
-	dice := uint32(7)
-	roll := func(n int) int {
-		dice = dice*1664525 + 1013904223
-		return int(dice>>16) % n
-	}
+	roll := diceOf(7)
 	for step := range 6000 {
 		switch roll(12) {
 		case 0:

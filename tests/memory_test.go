@@ -44,7 +44,7 @@ func spansOf(v reflect.Value) []span {
 	return out
 }
 
-// filled is a value of a type in which each number and text is something.
+// filled is a value of a type in which each number, text, flag and list is something.
 func filled(kind reflect.Type) reflect.Value {
 	v := reflect.New(kind).Elem()
 	switch kind.Kind() {
@@ -52,6 +52,10 @@ func filled(kind reflect.Type) reflect.Value {
 		v.SetInt(-77)
 	case reflect.String:
 		v.SetString("room")
+	case reflect.Bool:
+		v.SetBool(true)
+	case reflect.Slice:
+		v.Set(reflect.Append(v, filled(kind.Elem())))
 	case reflect.Struct:
 		for i := range v.NumField() {
 			v.Field(i).Set(filled(kind.Field(i).Type))

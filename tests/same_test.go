@@ -25,6 +25,8 @@ func alike(a reflect.Value, b reflect.Value) bool {
 			}
 		}
 		return true
+	case reflect.Interface:
+		return a.Elem().Type() == b.Elem().Type() && alike(a.Elem(), b.Elem())
 	}
 	return a.Interface() == b.Interface()
 }
