@@ -1,8 +1,10 @@
 package tests
 
 import (
+	"cmp"
 	"reflect"
 	"runtime"
+	"slices"
 	"strings"
 	"testing"
 	"unsafe"
@@ -113,35 +115,97 @@ func roomUnwritten(v reflect.Value) bool {
 	return true
 }
 
-// wantApart wants a call to write nothing into its argument nor into the room
-// behind its lists, to answer memory that it shares with none of it, and no two
-// lists in one memory.
-func wantApart[T any](t *testing.T, what string, was T, call func(T) []any) {
-	t.Helper()
-	own := ownOf(reflect.ValueOf(was))
-	x := own.Interface().(T)
-	answer := call(x)
-	wantSame(t, what+": its argument then", x, was)
-	if !roomUnwritten(own) {
-		t.Errorf("%s writes into the room behind its argument", what)
+// sharedMemory tells what an answer shares memory with, the empty text for
+// nothing. What was given shares none within itself.
+func sharedMemory(given []span, got []span) string {
+	byPlace := func(a, b span) int { return cmp.Compare(a.from, b.from) }
+	slices.SortFunc(given, byPlace)
+	slices.SortFunc(got, byPlace)
+	var last span
+	for _, a := range got {
+		at, _ := slices.BinarySearchFunc(given, a.from, func(g span, from uintptr) int { return cmp.Compare(g.to, from+1) })
+		if at < len(given) && a.meets(given[at]) {
+			return "its argument"
+		}
+		if a.list && last.meets(a) {
+			return "another list of it"
+		}
+		if a.list {
+			last = a
+		}
 	}
-	given := spansOf(own)
-	got := spansOf(reflect.ValueOf(answer))
-	for i, a := range got {
-		for _, g := range given {
-			if a.meets(g) {
-				t.Errorf("%s shares memory with its argument", what)
-				return
-			}
+	return ""
+}
+
+// wantApartAll wants a call to write nothing into its arguments nor into the
+// room behind their lists, to answer memory that it shares with none of them,
+// and no two lists in one memory.
+func wantApartAll(t *testing.T, what string, was []reflect.Value, call func(args []reflect.Value) []reflect.Value) []reflect.Value {
+	t.Helper()
+	var own []reflect.Value
+	for _, v := range was {
+		own = append(own, ownOf(v))
+	}
+	answer := call(own)
+	var given, got []span
+	for i, v := range own {
+		if !alike(v, was[i]) {
+			t.Errorf("%s: its argument then is %#v; it was %#v", what, v, was[i])
 		}
-		for _, b := range got[:i] {
-			if a.list && b.list && a.meets(b) {
-				t.Errorf("%s: two lists of its answer share memory", what)
-				return
-			}
+		if !roomUnwritten(v) {
+			t.Errorf("%s writes into the room behind its argument", what)
 		}
+		given = append(given, spansOf(v)...)
+	}
+	for _, v := range answer {
+		got = append(got, spansOf(v)...)
+	}
+	if with := sharedMemory(given, got); with != "" {
+		t.Errorf("%s: its answer shares memory with %s", what, with)
 	}
 	// Memory that is let go might be given out again, which would be no sharing.
-	runtime.KeepAlive(x)
+	runtime.KeepAlive(own)
 	runtime.KeepAlive(answer)
+	return answer
+}
+
+// wantApart is wantApartAll for a call of one argument.
+func wantApart[T any](t *testing.T, what string, was T, call func(T) []any) {
+	t.Helper()
+	wantApartAll(t, what, []reflect.Value{reflect.ValueOf(was)}, func(args []reflect.Value) []reflect.Value {
+		return []reflect.Value{reflect.ValueOf(call(args[0].Interface().(T)))}
+	})
+}
+
+// The tests of memory are to see what they look for.
+func TestSharedMemory(t *testing.T) {
+	list, text := make([]int, 3, 8), strings.Clone("some text")
+	other, words := make([]int, 4), strings.Clone("other text")
+	spans := func(values []any) []span {
+		var out []span
+		for _, v := range values {
+			out = append(out, spansOf(reflect.ValueOf(v))...)
+		}
+		return out
+	}
+	for _, row := range []struct {
+		given, got []any
+		want       string
+	}{
+		{[]any{list, text}, []any{other, words}, ""},
+		{[]any{list, text}, []any{other, list}, "its argument"},
+		{[]any{list, text}, []any{other[:1], list[2:]}, "its argument"},
+		{[]any{list, text}, []any{list[3:6]}, "its argument"},
+		{[]any{list, text}, []any{other, text}, "its argument"},
+		{[]any{list, text}, []any{words, text[8:]}, "its argument"},
+		{[]any{list, text}, []any{text[:1]}, "its argument"},
+		{[]any{list, text}, []any{other, other}, "another list of it"},
+		{[]any{list}, []any{other[:1], text, other[1:]}, "another list of it"},
+		{nil, []any{other[:1:1], text, other[1:2:2], words, text}, ""},
+		{nil, []any{other[:1:1], other[2:], other[1:3:3]}, "another list of it"},
+	} {
+		if got := sharedMemory(spans(row.given), spans(row.got)); got != row.want {
+			t.Errorf("%v and %v share with %q; want %q", row.given, row.got, got, row.want)
+		}
+	}
 }
