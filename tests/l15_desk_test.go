@@ -42,8 +42,8 @@ var (
 	publishPattern = regexp.MustCompile(`(?s)^(60 40 =[^ ]* =[^ ]*) (.*)$`)
 	barePattern    = regexp.MustCompile(`^(sync|flush|size)$`)
 	numberPattern  = regexp.MustCompile(`^(merge|crash|tick) (0|[1-9][0-9]{0,8})$`)
-	namePattern    = regexp.MustCompile(`^(depth) ([^ ]+)$`)
-	bothPattern    = regexp.MustCompile(`^(trim|read) ([^ ]+) (0|[1-9][0-9]{0,8})$`)
+	namePattern    = regexp.MustCompile(`^(depth) ([^ ]*)$`)
+	bothPattern    = regexp.MustCompile(`^(trim|read) ([^ ]*) (0|[1-9][0-9]{0,8})$`)
 )
 
 // methodBy is the method that a text tells, by the words of the document.
@@ -758,11 +758,11 @@ func TestDeskTrimAndRead(t *testing.T) {
 	// An empty body is told as itself.
 	wantScript(t, "empty bodies", "say 50 10 =s 1", "50 11 =s 0", "say 60 40 = =s", "-", "read s 0", "", "say 60 40 = =s", "-", "read s 0", ";", "read s 1", "", "say 60 40 = =s x", "-", "read s 0", ";;x")
 	m := wantTalk(t, "begun", deskMill(), "say 50 10 =q 0", "50 11 =q 0", "say 50 10 =s 1", "50 11 =s 0", "say 60 40 = =s a", "-")
-	for _, name := range []string{"q", "none", "S", "s.", "=s", "*", "é", "\xff", "s\n", "0", strings.Repeat("n", 31), strings.Repeat("n", 5000)} {
+	for _, name := range []string{"", "q", "none", "S", "s.", "=s", "*", "é", "\xff", "s\n", "0", strings.Repeat("n", 31), strings.Repeat("n", 5000)} {
 		wantIgnored(t, "no stream", m, "trim "+name+" 0", "none")
 		wantIgnored(t, "no stream", m, "read "+name+" 0", "none")
 	}
-	for _, name := range []string{"s", "q", "none"} {
+	for _, name := range []string{"", "s", "q", "none"} {
 		for _, n := range []string{"", "x", "-1", "00", "01", "+1", "1.0", "1000000000", "9223372036854775808", "1 ", " 1", "1 1", "s"} {
 			wantIgnored(t, "no number", m, "trim "+name+" "+n, "what")
 			wantIgnored(t, "no number", m, "read "+name+" "+n, "what")
@@ -789,12 +789,35 @@ func TestDeskDepth(t *testing.T) {
 		"depth s", "0",
 		"say 60 40 = =s x", "-",
 		"depth s", "1",
+		"depth ", "-1",
 		"depth none", "-1",
 		"depth Q", "-1",
 		"depth =q", "-1",
 		"depth 0", "-1",
 		"depth é\xff", "-1",
 	)
+}
+
+// A name is any word: the empty one is asked like any other one.
+func TestDeskEmptyName(t *testing.T) {
+	wantScript(t, "nothing there", "depth ", "-1", "trim  0", "none", "trim  1", "none", "read  0", "none", "read  999999999", "none")
+	for why, m := range map[string]impl.Mill{"nothing": {}, "begun": deskMill(), "some": someMill(), "300 pairs": fullMill(300)} {
+		wantIgnored(t, why, m, "depth ", "-1")
+		wantIgnored(t, why, m, "trim  1", "none")
+		wantIgnored(t, why, m, "read  0", "none")
+		for _, line := range []string{"depth", "depth  ", "trim ", "trim  ", "trim   ", "trim  x", "trim  01", "trim   1", "trim  1 ", "read ", "read  ", "read  01", "read  1000000000"} {
+			wantIgnored(t, why, m, line, "what")
+		}
+	}
+	// Such a core is not CoreOk, but what has the empty name is found in it.
+	queues := impl.Mill{Core: impl.Core{Queues: []impl.Queue{{Next: 3, Ready: []impl.Message{{Seq: 1}, {Seq: 2}}}}}}
+	wantIgnored(t, "a queue", queues, "depth ", "2")
+	wantIgnored(t, "a queue", queues, "trim  0", "none")
+	wantIgnored(t, "a queue", queues, "read  0", "none")
+	streams := impl.Mill{Core: impl.Core{Streams: []impl.Stream{{Next: 3, Entries: manyEntries(0, 3)}}}}
+	wantIgnored(t, "a stream", streams, "depth ", "3")
+	wantIgnored(t, "a stream", streams, "trim  0", "none")
+	wantIgnored(t, "a stream", streams, "read  0", "-")
 }
 
 // notLines are lines that the document does not name.
@@ -809,9 +832,9 @@ func notLines() []string {
 			out = append(out, word+" "+n)
 		}
 	}
-	out = append(out, "depth", "depth ", "depth  ", " depth q", "depth  q", "depth q ", "depth q q", "depth q 1")
+	out = append(out, "depth", " depth", " depth ", "depth  ", "depth   ", " depth q", "depth  q", "depth q ", "depth q q", "depth q 1")
 	for _, word := range []string{"trim", "read"} {
-		for _, rest := range []string{"", " ", "  ", " s", " 1", " s ", "  1", " s  1", "  s 1", " s 1 ", " 1 s", " s 1 1", " s s 1", " s x", " s -1", " s 01"} {
+		for _, rest := range []string{"", " ", "  ", " s", " 1", " s ", "   ", "  s", "  01", "   1", "  1 ", " s  1", "  s 1", " s 1 ", " 1 s", " s 1 1", " s s 1", " s x", " s -1", " s 01"} {
 			out = append(out, word+rest)
 		}
 		out = append(out, " "+word+" s 1")
@@ -846,7 +869,7 @@ func TestDeskWhat(t *testing.T) {
 // eachLine are lines of all kinds, with what fits someMill and what does not.
 func eachLine() []string {
 	out := []string{"sync", "flush", "size", "merge 0", "merge 1", "merge 9", "crash 0", "crash 1", "crash 700", "crash 999999999", "tick 0", "tick 7", "tick 1000000", "tick 1000001"}
-	for _, name := range []string{"a", "m", "z", "log", "s", "q", "none", "A!", "="} {
+	for _, name := range []string{"a", "m", "z", "log", "s", "q", "none", "A!", "=", ""} {
 		out = append(out, "depth "+name)
 		for _, n := range []int{0, 1, 3, 7, 12, 999999999} {
 			out = append(out, fmt.Sprint("trim ", name, " ", n), fmt.Sprint("read ", name, " ", n))
@@ -913,7 +936,8 @@ func TestDeskLineOfWrongMills(t *testing.T) {
 		wantIgnored(t, why, m, "tick 7", fmt.Sprint(m.Time))
 		wantIgnored(t, why, m, "trim log 0", "none")
 		wantIgnored(t, why, m, "sync ", "what")
-		for _, line := range []string{"sync", "flush", "merge 0", "merge 1", "depth a", "depth s", "read log 0", "read s 0", "read a 0", "size"} {
+		wantIgnored(t, why, m, "trim  0", "none")
+		for _, line := range []string{"sync", "flush", "merge 0", "merge 1", "depth ", "read  0", "depth a", "depth s", "read log 0", "read s 0", "read a 0", "size"} {
 			wantLine(t, why, m, line)
 		}
 		next := wantSay(t, why, m, "crash 999999999", "done")
@@ -1056,11 +1080,11 @@ func (w *deskWalk) line() string {
 		}
 		return fmt.Sprint("tick ", w.roll(50))
 	case 3:
-		return fmt.Sprintf("trim %s %d", w.pick("s", "u", "q", "none"), w.roll(6))
+		return fmt.Sprintf("trim %s %d", w.pick("s", "u", "q", "none", ""), w.roll(6))
 	case 4, 5:
-		return fmt.Sprintf("read %s %d", w.pick("s", "u", "q", "none"), w.roll(6))
+		return fmt.Sprintf("read %s %d", w.pick("s", "u", "q", "none", ""), w.roll(6))
 	case 6, 7:
-		return "depth " + w.pick("q", "r", "s", "u", "none")
+		return "depth " + w.pick("q", "r", "s", "u", "none", "")
 	case 8:
 		list := notLines()
 		return strings.ReplaceAll(list[w.roll(len(list))], "\n", "")
